@@ -2,6 +2,7 @@ package clock
 
 import (
 	"perigee/api"
+	"perigee/bigend"
 )
 
 const (
@@ -17,11 +18,7 @@ func Code(time int) ([]byte, api.Fault) {
 		return nil, api.ErrRange
 	}
 	code := time/second*parts + partsOf(time%second)
-	b := make([]byte, codeSize)
-	for i := range b {
-		b[codeSize-1-i] = byte(code >> (8 * i))
-	}
-	return b, api.OK
+	return bigend.Append(nil, code, codeSize), api.OK
 }
 
 func partsOf(millis int) int { return millis * parts / second }
@@ -31,10 +28,7 @@ func ReadCode(b []byte) (int, api.Fault) {
 	if len(b) != codeSize {
 		return 0, api.ErrForm
 	}
-	code := 0
-	for _, x := range b {
-		code = code<<8 | int(x)
-	}
+	code := bigend.Number(b)
 	rest := code % parts
 	// Code rounds down, so that only the first whole millisecond from there on can have this rest.
 	millis := (rest*second + parts - 1) / parts

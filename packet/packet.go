@@ -5,6 +5,7 @@ import (
 	"slices"
 
 	"perigee/api"
+	"perigee/bigend"
 )
 
 // Packets and frames alike have six bytes before their contents and the sum behind.
@@ -111,9 +112,9 @@ func intact(b []byte) bool {
 	return Sum(b[:end]) == two(b[end:])
 }
 
-func appendTwo(b []byte, n int) []byte { return append(b, byte(n>>8), byte(n)) }
+func appendTwo(b []byte, n int) []byte { return bigend.Append(b, n, 2) }
 
-func two(b []byte) int { return int(b[0])<<8 | int(b[1]) }
+func two(b []byte) int { return bigend.Number(b[:2]) }
 
 // following returns what comes behind n in numbers from 0 to most that go around.
 func following(n, most int) int { return (n + 1) % (most + 1) }
