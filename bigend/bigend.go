@@ -1,4 +1,4 @@
-// Package bigend writes and reads whole numbers in bytes, the greatest one first.
+// Package bigend writes and reads whole numbers in bytes, the greatest one first. In eight bytes those from 2^63 on are ints below 0.
 package bigend
 
 // Append writes a number in so many bytes behind b.

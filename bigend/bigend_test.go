@@ -20,6 +20,8 @@ func TestNumbers(t *testing.T) {
 		{4000000000, 4, []byte{0xEE, 0x6B, 0x28, 0}},
 		{0x0102030405060708, 8, []byte{1, 2, 3, 4, 5, 6, 7, 8}},
 		{1<<63 - 1, 8, []byte{127, 255, 255, 255, 255, 255, 255, 255}},
+		{-1 << 63, 8, []byte{128, 0, 0, 0, 0, 0, 0, 0}},
+		{-2, 8, []byte{255, 255, 255, 255, 255, 255, 255, 254}},
 	} {
 		if got := bigend.Append(nil, c.n, c.many); !bytes.Equal(got, c.want) {
 			t.Errorf("Append of %d: got %d, want %d", c.n, got, c.want)
