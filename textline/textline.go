@@ -1,4 +1,4 @@
-// Package textline reads and writes texts of lines, each one ended by the byte 10, with numbers that have single blanks between.
+// Package textline reads and writes texts of lines, each one ended by the byte 10, with words and numbers that have single blanks between.
 package textline
 
 import (
@@ -18,6 +18,30 @@ func Read(text string, take func(line string) bool) int {
 	return 0
 }
 
+// Words returns the words that a line is, and false if one of them is none.
+func Words(line string) ([]string, bool) {
+	words := strings.Split(line, " ")
+	for _, word := range words {
+		if !IsWord(word) {
+			return nil, false
+		}
+	}
+	return words, true
+}
+
+// IsWord says whether s is at least one byte, each from 33 to 126.
+func IsWord(s string) bool { return IsText(s) && !strings.Contains(s, " ") }
+
+// IsText says whether s is at least one byte, each from 32 to 126.
+func IsText(s string) bool {
+	for _, b := range []byte(s) {
+		if b < ' ' || b > '~' {
+			return false
+		}
+	}
+	return s != ""
+}
+
 // Numbers returns the numbers that a line is, and false if it is not so many, each of at most so many digits (18 always fit).
 func Numbers(line string, many, digits int) ([]int, bool) {
 	words := strings.Split(line, " ")
@@ -26,7 +50,7 @@ func Numbers(line string, many, digits int) ([]int, bool) {
 	}
 	var numbers []int
 	for _, word := range words {
-		n, ok := number(word, digits)
+		n, ok := Number(word, digits)
 		if !ok {
 			return nil, false
 		}
@@ -35,8 +59,8 @@ func Numbers(line string, many, digits int) ([]int, bool) {
 	return numbers, true
 }
 
-// number returns the number that a word is: digits without a needless 0.
-func number(word string, digits int) (int, bool) {
+// Number returns the number that a word is, and false if it is not from 1 to so many digits (18 always fit) without a needless 0.
+func Number(word string, digits int) (int, bool) {
 	if word == "" || len(word) > digits || word[0] == '0' && len(word) > 1 {
 		return 0, false
 	}

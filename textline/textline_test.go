@@ -67,6 +67,67 @@ func TestNumbers(t *testing.T) {
 	}
 }
 
+func TestNumber(t *testing.T) {
+	for _, c := range []struct {
+		word   string
+		digits int
+		want   int
+		ok     bool
+	}{
+		{"0", 1, 0, true},
+		{"10", 2, 10, true},
+		{"9999999999999", 13, 9999999999999, true},
+		{"10000000000000", 13, 0, false},
+		{"01", 13, 0, false},
+		{"", 13, 0, false},
+		{"7 8", 13, 0, false},
+		{"-7", 13, 0, false},
+	} {
+		got, ok := textline.Number(c.word, c.digits)
+		if got != c.want || ok != c.ok {
+			t.Errorf("%q: got %d, %v, want %d, %v", c.word, got, ok, c.want, c.ok)
+		}
+	}
+}
+
+func TestWords(t *testing.T) {
+	for _, c := range []struct {
+		line string
+		want []string
+	}{
+		{"a", []string{"a"}},
+		{"a bc ! ~", []string{"a", "bc", "!", "~"}},
+		{"", nil},
+		{" ", nil},
+		{" a", nil},
+		{"a ", nil},
+		{"a  b", nil},
+		{"a\tb", nil},
+		{"a b\x7f", nil},
+		{"a \u0665", nil},
+		{"a\x00", nil},
+	} {
+		got, ok := textline.Words(c.line)
+		if ok != (c.want != nil) || !slices.Equal(got, c.want) {
+			t.Errorf("%q: got %q, %v, want %q", c.line, got, ok, c.want)
+		}
+	}
+}
+
+func TestIsWordAndIsText(t *testing.T) {
+	for b := range 256 {
+		for _, around := range []string{"", "a", "ab"} {
+			s := around + string([]byte{byte(b)}) + around
+			if textline.IsWord(s) != (b >= 33 && b <= 126) || textline.IsText(s) != (b >= 32 && b <= 126) {
+				t.Errorf("%q: word %v, text %v", s, textline.IsWord(s), textline.IsText(s))
+			}
+		}
+	}
+	if textline.IsWord("") || textline.IsText("") {
+		t.Error("no bytes are no word and no text")
+	}
+}
+
 func TestAppend(t *testing.T) {
 	b := textline.Append(nil, 5)
 	b = textline.Append(b, 0, 17, -3)
