@@ -2,6 +2,7 @@ package schedule
 
 import (
 	"perigee/api"
+	"perigee/naming"
 )
 
 // CheckChanges says what is wrong with changes.
@@ -36,7 +37,7 @@ func checkChange(c api.Change) api.Fault {
 	case api.ChangeShift:
 		return checkShift(c.Group, c.By)
 	case api.ChangeOn, api.ChangeOff:
-		if !isName(c.Group) {
+		if !naming.IsName(c.Group) {
 			return api.ErrName
 		}
 		return api.OK

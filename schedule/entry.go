@@ -6,26 +6,13 @@ import (
 	"slices"
 
 	"perigee/api"
+	"perigee/naming"
 	"perigee/textline"
 )
 
 func within(n, least, most int) bool { return n >= least && n <= most }
 
-func isName(s string) bool {
-	if !within(len(s), 1, api.MaxName) || !isSmall(s[0]) {
-		return false
-	}
-	for _, b := range []byte(s) {
-		if !isSmall(b) && (b < '0' || b > '9') && b != '-' && b != '_' {
-			return false
-		}
-	}
-	return true
-}
-
-func isSmall(b byte) bool { return b >= 'a' && b <= 'z' }
-
-func isNameOrEmpty(s string) bool { return s == "" || isName(s) }
+func isNameOrEmpty(s string) bool { return s == "" || naming.IsName(s) }
 
 func isCommand(s string) bool {
 	return len(s) <= api.MaxCommand && textline.IsText(s) && s[0] != ' ' && s[len(s)-1] != ' '

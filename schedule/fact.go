@@ -4,6 +4,7 @@ import (
 	"sort"
 
 	"perigee/api"
+	"perigee/naming"
 )
 
 // CheckFacts says what is wrong with facts.
@@ -12,7 +13,7 @@ func CheckFacts(l []api.Fact) api.Fault {
 		return api.ErrLarge
 	}
 	for i, x := range l {
-		if !isName(x.Name) {
+		if !naming.IsName(x.Name) {
 			return api.ErrName
 		}
 		if fault := checkSpans(x.Spans); fault != api.OK {
@@ -47,7 +48,7 @@ func Is(l []api.Fact, name string, at int) (bool, api.Fault) {
 	if fault := CheckFacts(l); fault != api.OK {
 		return false, fault
 	}
-	if !isName(name) {
+	if !naming.IsName(name) {
 		return false, api.ErrName
 	}
 	if !within(at, 0, api.MaxMoment) {

@@ -2,6 +2,7 @@ package schedule
 
 import (
 	"perigee/api"
+	"perigee/naming"
 )
 
 // CheckProcs says what is wrong with procedures.
@@ -22,7 +23,7 @@ func CheckProcs(p []api.Proc) api.Fault {
 
 // checkProc says what is wrong with a procedure alone.
 func checkProc(x api.Proc) api.Fault {
-	if !isName(x.Name) {
+	if !naming.IsName(x.Name) {
 		return api.ErrName
 	}
 	if len(x.Steps) > api.MaxProcSteps {
@@ -53,11 +54,11 @@ func checkStep(s api.ProcStep) api.Fault {
 		return api.ErrForm
 	case s.Kind == api.ProcSend && !isCommand(s.Text):
 		return api.ErrForm
-	case asksFact(s) && !isName(s.Text) || s.Kind == api.ProcCall && !isName(s.Text):
+	case asksFact(s) && !naming.IsName(s.Text) || s.Kind == api.ProcCall && !naming.IsName(s.Text):
 		return api.ErrName
 	case waits(s) && !within(s.N, 1, api.MaxShift):
 		return api.ErrRange
-	case hasLabel(s) && !isName(s.Label):
+	case hasLabel(s) && !naming.IsName(s.Label):
 		return api.ErrName
 	}
 	return api.OK
