@@ -5,6 +5,7 @@ import (
 	"sort"
 
 	"perigee/api"
+	"perigee/ratio"
 )
 
 // beyond is more than any time is away from a mark.
@@ -123,7 +124,7 @@ func Rates(m []api.Mark) (api.Share, api.Share, api.Fault) {
 			greatest = r
 		}
 	}
-	return lowest(least), lowest(greatest), api.OK
+	return ratio.Lowest(least.Num, least.Den), ratio.Lowest(greatest.Num, greatest.Den), api.OK
 }
 
 func rate(a, b api.Mark) api.Share { return api.Share{Num: b.Time - a.Time, Den: b.Tick - a.Tick} }
@@ -133,12 +134,4 @@ func below(a, b api.Share) bool {
 	high, low := bits.Mul64(uint64(a.Num), uint64(b.Den))
 	high2, low2 := bits.Mul64(uint64(b.Num), uint64(a.Den))
 	return high < high2 || high == high2 && low < low2
-}
-
-func lowest(s api.Share) api.Share {
-	a, b := s.Num, s.Den
-	for b > 0 {
-		a, b = b, a%b
-	}
-	return api.Share{Num: s.Num / a, Den: s.Den / a}
 }
